@@ -68,3 +68,15 @@ func sayApart(t *testing.T, what string, l []list) {
 		sayUnchanged(t, what+", writing into "+x.name, others, x.spoil)
 	}
 }
+
+// sayNoneShared is sayApart where the arguments may share memory among themselves.
+func sayNoneShared(t *testing.T, what string, args []list, answer []list) {
+	t.Helper()
+	for _, x := range args {
+		sayUnchanged(t, what+", writing into "+x.name, answer, x.spoil)
+	}
+	for i, x := range answer {
+		others := slices.Concat(args, answer[:i], answer[i+1:])
+		sayUnchanged(t, what+", writing into "+x.name, others, x.spoil)
+	}
+}
