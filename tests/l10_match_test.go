@@ -218,6 +218,16 @@ func projectIn(d impl.Db, like impl.Db) (impl.Db, bool) {
 	return out, code == 0
 }
 
+// saySeen asks that each of these codes came some times.
+func saySeen(t *testing.T, seen map[int]int, codes ...int) {
+	t.Helper()
+	for _, code := range codes {
+		if seen[code] < 10 {
+			t.Errorf("the code %d came %d times", code, seen[code])
+		}
+	}
+}
+
 func sayDrift(t *testing.T, cols string, keys string, x impl.Table, want int) {
 	t.Helper()
 	if got := impl.Drift(roomy(strings.Fields(cols)), roomy(strings.Fields(keys)), x); got != want {
@@ -370,11 +380,7 @@ func TestP15DriftOfAllShortLists(t *testing.T) {
 			}
 		}
 	}
-	for _, code := range []int{0, 1, 11, 12, 13} {
-		if seen[code] < 10 {
-			t.Errorf("the code %d came %d times", code, seen[code])
-		}
-	}
+	saySeen(t, seen, 0, 1, 11, 12, 13)
 }
 
 func TestP15DriftInAnyOrder(t *testing.T) {
@@ -493,11 +499,7 @@ func TestP15MapRowOfAllShortLists(t *testing.T) {
 			}
 		}
 	}
-	for _, code := range []int{0, 1, 11, 14} {
-		if seen[code] < 10 {
-			t.Errorf("the code %d came %d times", code, seen[code])
-		}
-	}
+	saySeen(t, seen, 0, 1, 11, 14)
 }
 
 func TestP15MapRowOfEachValue(t *testing.T) {
@@ -589,11 +591,7 @@ func TestP15MapKeyOfAllShortLists(t *testing.T) {
 			}
 		}
 	}
-	for _, code := range []int{0, 1, 12, 14} {
-		if seen[code] < 10 {
-			t.Errorf("the code %d came %d times", code, seen[code])
-		}
-	}
+	saySeen(t, seen, 0, 1, 12, 14)
 }
 
 func TestP15MapKeyOfEachValueOrAWrongTable(t *testing.T) {
@@ -698,8 +696,8 @@ func TestP15MapStmtOfAllChanges(t *testing.T) {
 	}
 }
 
-func TestP15MapStmtOfAllStatements(t *testing.T) {
-	seen := map[int]int{}
+// eachStmtByNames tells right statements with names that fit some of the stores.
+func eachStmtByNames(tell func(impl.Db, impl.Part)) {
 	stores := []impl.Db{
 		{}, plainDb(3), plainDb(2, 3), dbOf(catOf(mixedTable(), plainTable()), mixedRows(), evenRows(2)),
 		dbOf(catOf(tableOf("b", "x n k", "k"), mixedTable()), []impl.Row{rowOf(textVal("a"), textVal("b"), intVal(0))}, mixedRows()),
@@ -709,21 +707,22 @@ func TestP15MapStmtOfAllStatements(t *testing.T) {
 	for i, s := range rightStmts() {
 		for _, d := range stores {
 			for j, n := range names {
-				if s.Kind == impl.StUpdate && (i+j)%3 != 0 {
-					continue
+				if s.Kind != impl.StUpdate || (i+j)%3 == 0 {
+					tell(d, partOf(s, n[0], n[1]))
 				}
-				p := partOf(s, n[0], n[1])
-				want, code := stmtByNames(d, p)
-				seen[code]++
-				sayMapStmt(t, d, p, want, code)
 			}
 		}
 	}
-	for _, code := range []int{0, 1, 10, 11, 12, 13, 14} {
-		if seen[code] < 10 {
-			t.Errorf("the code %d came %d times", code, seen[code])
-		}
-	}
+}
+
+func TestP15MapStmtOfAllStatements(t *testing.T) {
+	seen := map[int]int{}
+	eachStmtByNames(func(d impl.Db, p impl.Part) {
+		want, code := stmtByNames(d, p)
+		seen[code]++
+		sayMapStmt(t, d, p, want, code)
+	})
+	saySeen(t, seen, 0, 1, 10, 11, 12, 13, 14)
 }
 
 // nearStmts go one after the other on a store with the table t, "i s x" with
